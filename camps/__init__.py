@@ -1,0 +1,1 @@
+"""Two camps, districts, and a majority by so few."""
