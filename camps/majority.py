@@ -7,7 +7,6 @@ MOST_VOTES = 1000
 
 
 def won(land):
-    """How many districts camp 0 wins, how many camp 1 does, how many neither."""
     if not land_is_as_told(land):
         return [NOT_AS_TOLD]
     gains = [gain(land[at], land[at + 1]) for at in range(0, len(land), 2)]
@@ -15,9 +14,10 @@ def won(land):
 
 
 def turn(k, land):
-    """How few voters must go over to camp k so that it leads; then how many in each district."""
     if k > 1 or not land_is_as_told(land):
         return [NOT_AS_TOLD]
+    # Of each lead in districts that can be reached, the best way to it. A way is a list: how many go over in all,
+    # then how many in each district. So lists compare as ways do: fewer in all, then fewer where they first differ.
     ways = {0: [0]}
     for at in range(0, len(land), 2):
         ways = with_district(ways, land[at + k], land[at + 1 - k])
@@ -28,14 +28,13 @@ def turn(k, land):
 
 
 def land_is_as_told(land):
-    """Whether land has two numbers of each district, not too many districts, not too many votes."""
     if len(land) % 2 == 1 or len(land) > 2 * MOST_DISTRICTS:
         return False
     return all([votes <= MOST_VOTES for votes in land])
 
 
+# A lead is counted in districts, so that a tie won and a loss evened weigh the same.
 def gain(own, other):
-    """What a district adds to the lead of the camp that has own votes there."""
     if own > other:
         return 1
     if own < other:
@@ -44,24 +43,18 @@ def gain(own, other):
 
 
 def with_district(ways, own, other):
-    """The best way to each lead, one district further on.
-
-    A way is a list: how many go over in all, then how many in each district so far.
-    """
     longer = {}
     for lead in ways:
         for over in worth_trying(own, other):
             way = [ways[lead][0] + over] + ways[lead][1:] + [over]
             reached = lead + gain(own + over, other - over)
-            # Later districts can go on alike from every way to one lead, so the least is all that is needed:
-            # lists compare by their sum first, then by the first district where they differ.
+            # Later districts can go on alike from every way to one lead, so the best of them is all that is needed.
             if reached not in longer or way < longer[reached]:
                 longer[reached] = way
     return longer
 
 
 def worth_trying(own, other):
-    """How many might go over in a district, where as few as possible are to go over in all."""
     if own > other:
         return [0]
     # Any other number could be lowered to one of these without losing the tie or the win it brings.

@@ -152,6 +152,13 @@ class OfAsFew(unittest.TestCase):
         self.assertEqual(turn(0, [1, 1, 0, 2, 1, 1]), [2, 0, 1, 1])
         self.assertEqual(turn(0, [1, 1, 1, 1, 0, 2]), [2, 0, 0, 2])
 
+    def test_the_order_counts_among_ways_with_as_few_to_the_same_lead(self):
+        land = [0, 1, 0, 2, 0, 3, 1, 1]
+        self.assertTrue(leads(0, after(0, land, [1, 1, 0, 1])))
+        self.assertEqual(turn(0, land), [3, 1, 0, 2, 0])
+        self.assertEqual(turn(1, swapped(land)), [3, 1, 0, 2, 0])
+        self.assertEqual(turn(0, [4, 3, 6, 6, 0, 3, 1, 5, 1, 3]), [3, 0, 0, 2, 0, 1])
+
 
 class AgainstAPlainSearch(unittest.TestCase):
     def hold_against_search(self, districts, most):
@@ -168,6 +175,13 @@ class AgainstAPlainSearch(unittest.TestCase):
 
     def test_three_districts(self):
         self.hold_against_search(3, 3)
+
+    def test_four_districts_of_all_these_kinds(self):
+        kinds = [(0, 0), (1, 0), (1, 1), (0, 1), (0, 2), (0, 3), (1, 3)]
+        for districts in itertools.product(kinds, repeat=4):
+            land = [votes for district in districts for votes in district]
+            self.assertEqual(turn(0, land), least(0, land, every_number(0, land)), land)
+            self.assertEqual(turn(1, swapped(land)), turn(0, land), land)
 
     def test_three_districts_with_votes_up_to_five(self):
         draw = random.Random(3)
