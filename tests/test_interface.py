@@ -5,7 +5,7 @@ import pathlib
 import unittest
 
 import camps.majority
-from camps.majority import turn, won
+from camps.majority import fewest, swing, turn, won
 
 PACKAGE = pathlib.Path(camps.majority.__file__).parent
 
@@ -23,7 +23,9 @@ class Unchangeable(list):
 
 
 def answers(land):
-    return [won(land)] + [turn(k, land) for k in (0, 1, 2, 4294967295)]
+    camps_named = (0, 1, 2, 4294967295)
+    return ([won(land), fewest(land)] + [turn(k, land) for k in camps_named]
+            + [swing(k, land) for k in camps_named])
 
 
 class HandedInAndGivenBack(unittest.TestCase):
@@ -80,6 +82,8 @@ class PackageFiles(unittest.TestCase):
     def test_names_and_arguments_stand_as_told(self):
         self.assertEqual(won(land=[2, 1]), [1, 0, 0])
         self.assertEqual(turn(k=1, land=[2, 1]), [1, 1])
+        self.assertEqual(swing(k=1, land=[2, 1]), [1, 1, 0])
+        self.assertEqual(fewest(land=[2, 1]), [2, 2])
 
     def test_size_and_signs(self):
         for path in sorted(PACKAGE.glob("*.py")):

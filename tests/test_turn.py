@@ -3,31 +3,7 @@ import random
 import unittest
 
 from camps.majority import turn, won
-
-GREATEST = 4294967295
-
-
-def swapped(land):
-    return [land[at + 1 - at % 2 * 2] for at in range(len(land))]
-
-
-def after(k, land, way):
-    """land, when in each district as many as way says have gone over to camp k."""
-    moved = list(land)
-    for district, over in enumerate(way):
-        moved[2 * district + k] += over
-        moved[2 * district + 1 - k] -= over
-    return moved
-
-
-def leads(k, land):
-    wins = [0, 0]
-    for at in range(0, len(land), 2):
-        if land[at] > land[at + 1]:
-            wins[0] += 1
-        if land[at + 1] > land[at]:
-            wins[1] += 1
-    return wins[k] > wins[1 - k]
+from plain import GREATEST, after, drawn_lands, leads, swapped
 
 
 def least(k, land, choices):
@@ -208,14 +184,8 @@ class AgainstAPlainSearch(unittest.TestCase):
 
 
 class WhatHolds(unittest.TestCase):
-    def drawn_lands(self):
-        draw = random.Random(11)
-        lands = [[draw.randint(0, most) for place in range(2 * districts)]
-                 for districts in range(8) for most in (1, 3, 50, 1000) for count in range(20)]
-        return lands
-
     def test_what_is_answered_makes_it_lead(self):
-        for land in self.drawn_lands():
+        for land in drawn_lands():
             for k in (0, 1):
                 answer = turn(k, land)
                 if answer == [-33]:
@@ -227,19 +197,19 @@ class WhatHolds(unittest.TestCase):
                 self.assertTrue(leads(k, moved), (k, land))
 
     def test_it_can_be_just_if_it_leads_or_the_other_has_a_vote(self):
-        for land in self.drawn_lands():
+        for land in drawn_lands():
             for k in (0, 1):
                 can_be = leads(k, land) or sum(land[1 - k::2]) > 0
                 self.assertEqual(turn(k, land) != [-33], can_be, (k, land))
 
     def test_nobody_goes_over_just_if_it_leads(self):
-        for land in self.drawn_lands():
+        for land in drawn_lands():
             counts = won(land)
             for k in (0, 1):
                 self.assertEqual(turn(k, land)[0] == 0, counts[k] > counts[1 - k], (k, land))
 
     def test_camps_called_otherwise(self):
-        for land in self.drawn_lands():
+        for land in drawn_lands():
             self.assertEqual(turn(0, land), turn(1, swapped(land)), land)
             self.assertEqual(turn(1, land), turn(0, swapped(land)), land)
 

@@ -2,8 +2,7 @@ import itertools
 import unittest
 
 from camps.majority import won
-
-GREATEST = 4294967295
+from plain import GREATEST
 
 
 class Counts(unittest.TestCase):
