@@ -1,5 +1,6 @@
-"""Two camps and their districts: who wins which, how few voters would turn it, and with how few votes one leads."""
+"""Two camps and their districts: who wins which, how few votes or voters decide it, and how many are idle."""
 
+NO_DISTRICT = -2
 NOT_AS_TOLD = -22
 CANNOT_BE = -33
 MOST_DISTRICTS = 7
@@ -9,8 +10,7 @@ MOST_VOTES = 1000
 def won(land):
     if not land_is_as_told(land):
         return [NOT_AS_TOLD]
-    gains = gains_of(0, land)
-    return [gains.count(1), gains.count(-1), gains.count(0)]
+    return districts_won(land)
 
 
 def turn(k, land):
@@ -36,6 +36,22 @@ def fewest(land):
     return least_gone_over(0, all_for_camp_1(land))
 
 
+def idle(land):
+    if not land_is_as_told(land):
+        return [NOT_AS_TOLD]
+    return [idle_votes(0, land), idle_votes(1, land)]
+
+
+def joined(i, j, land):
+    if not land_is_as_told(land):
+        return [NOT_AS_TOLD]
+    if max(i, j) >= len(land) // 2:
+        return [NO_DISTRICT]
+    if i == j:
+        return [NOT_AS_TOLD]
+    return districts_won(as_one_district(i, j, land))
+
+
 def land_is_as_told(land):
     if len(land) % 2 == 1 or len(land) > 2 * MOST_DISTRICTS:
         return False
@@ -55,6 +71,12 @@ def gains_of(k, land):
     return [gain(land[at + k], land[at + 1 - k]) for at in range(0, len(land), 2)]
 
 
+# Apart from won, as a land that is worked out may hold more than 1,000 votes of a camp in a district.
+def districts_won(land):
+    gains = gains_of(0, land)
+    return [gains.count(1), gains.count(-1), gains.count(0)]
+
+
 def swung(k, land, over):
     after = list(land)
     for at in range(0, len(land), 2):
@@ -69,6 +91,25 @@ def all_for_camp_1(land):
     for at in range(0, len(land), 2):
         given.extend([0, land[at] + land[at + 1]])
     return given
+
+
+def idle_votes(k, land):
+    return sum([idle_there(land[at + k], land[at + 1 - k]) for at in range(0, len(land), 2)])
+
+
+def idle_there(own, other):
+    if own > other:
+        return own - (other + 1)
+    return own
+
+
+def as_one_district(i, j, land):
+    # Which place the new district has doesn't matter: districts are only counted afterwards.
+    after = [land[2 * i] + land[2 * j], land[2 * i + 1] + land[2 * j + 1]]
+    for district in range(len(land) // 2):
+        if district != i and district != j:
+            after.extend([land[2 * district], land[2 * district + 1]])
+    return after
 
 
 def least_gone_over(k, land):

@@ -5,7 +5,7 @@ import pathlib
 import unittest
 
 import camps.majority
-from camps.majority import fewest, swing, turn, won
+from camps.majority import fewest, idle, joined, swing, turn, won
 
 PACKAGE = pathlib.Path(camps.majority.__file__).parent
 
@@ -24,8 +24,9 @@ class Unchangeable(list):
 
 def answers(land):
     camps_named = (0, 1, 2, 4294967295)
-    return ([won(land), fewest(land)] + [turn(k, land) for k in camps_named]
-            + [swing(k, land) for k in camps_named])
+    districts_named = ((0, 1), (1, 0), (0, 0), (0, 6), (5, 2), (4294967295, 0))
+    return ([won(land), fewest(land), idle(land)] + [turn(k, land) for k in camps_named]
+            + [swing(k, land) for k in camps_named] + [joined(i, j, land) for i, j in districts_named])
 
 
 class HandedInAndGivenBack(unittest.TestCase):
@@ -84,6 +85,8 @@ class PackageFiles(unittest.TestCase):
         self.assertEqual(turn(k=1, land=[2, 1]), [1, 1])
         self.assertEqual(swing(k=1, land=[2, 1]), [1, 1, 0])
         self.assertEqual(fewest(land=[2, 1]), [2, 2])
+        self.assertEqual(idle(land=[4, 2]), [1, 2])
+        self.assertEqual(joined(i=0, j=1, land=[2, 1, 1, 1]), [1, 0, 0])
 
     def test_size_and_signs(self):
         for path in sorted(PACKAGE.glob("*.py")):
