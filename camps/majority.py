@@ -52,10 +52,27 @@ def joined(i, j, land):
     return districts_won(as_one_district(i, j, land))
 
 
+def moved(k, land, voters):
+    if k > 1 or not land_is_as_told(land) or not can_go_over(k, land, voters):
+        return [NOT_AS_TOLD]
+    return districts_won(gone_over(k, land, voters))
+
+
 def land_is_as_told(land):
     if len(land) % 2 == 1 or len(land) > 2 * MOST_DISTRICTS:
         return False
     return all([votes <= MOST_VOTES for votes in land])
+
+
+def can_go_over(k, land, voters):
+    others = votes_of(1 - k, land)
+    if len(voters) != len(others):
+        return False
+    return all([over <= other for over, other in zip(voters, others)])
+
+
+def votes_of(k, land):
+    return [land[at + k] for at in range(0, len(land), 2)]
 
 
 # A lead is counted in districts, so that a tie won and a loss evened weigh the same.
@@ -78,11 +95,14 @@ def districts_won(land):
 
 
 def swung(k, land, over):
+    return gone_over(k, land, [min(over, other) for other in votes_of(1 - k, land)])
+
+
+def gone_over(k, land, voters):
     after = list(land)
-    for at in range(0, len(land), 2):
-        going = min(over, land[at + 1 - k])
-        after[at + k] = land[at + k] + going
-        after[at + 1 - k] = land[at + 1 - k] - going
+    for district, over in enumerate(voters):
+        after[2 * district + k] += over
+        after[2 * district + 1 - k] -= over
     return after
 
 

@@ -5,10 +5,11 @@ import pathlib
 import unittest
 
 import camps.majority
-from camps.majority import fewest, idle, joined, swing, turn, won
+from camps.majority import fewest, idle, joined, moved, swing, turn, won
 
 PACKAGE = pathlib.Path(camps.majority.__file__).parent
 
+VOTERS = ([], [0], [1], [0, 1], [1, 0, 0], [500] * 7, [4294967295] * 10)
 LANDS = ([], [0, 0], [5, 5], [3, 1, 1, 3], [0, 1, 0, 1, 1, 0], [0, 1000] * 7, [1, 2, 3], [1001, 0], [1, 0] * 9)
 
 
@@ -22,23 +23,27 @@ class Unchangeable(list):
     __setitem__ = __delitem__ = __iadd__ = __imul__ = refuse
 
 
-def answers(land):
+def answers(land, ways=VOTERS):
     camps_named = (0, 1, 2, 4294967295)
     districts_named = ((0, 1), (1, 0), (0, 0), (0, 6), (5, 2), (4294967295, 0))
     return ([won(land), fewest(land), idle(land)] + [turn(k, land) for k in camps_named]
-            + [swing(k, land) for k in camps_named] + [joined(i, j, land) for i, j in districts_named])
+            + [swing(k, land) for k in camps_named] + [joined(i, j, land) for i, j in districts_named]
+            + [moved(k, land, voters) for k in camps_named for voters in ways])
 
 
 class HandedInAndGivenBack(unittest.TestCase):
     def test_what_was_handed_in_is_as_it_was(self):
         for land in LANDS:
             before = list(land)
-            answers(land)
+            ways = [list(voters) for voters in VOTERS]
+            answers(land, ways)
             self.assertEqual(land, before)
+            self.assertEqual(ways, list(VOTERS))
 
     def test_what_is_handed_in_is_not_changed_for_a_while(self):
         for land in LANDS:
-            self.assertEqual(answers(Unchangeable(land)), answers(land))
+            ways = [Unchangeable(voters) for voters in VOTERS]
+            self.assertEqual(answers(Unchangeable(land), ways), answers(land))
 
     def test_a_list_of_whole_numbers_is_given_back(self):
         for land in LANDS:
@@ -87,6 +92,23 @@ class PackageFiles(unittest.TestCase):
         self.assertEqual(fewest(land=[2, 1]), [2, 2])
         self.assertEqual(idle(land=[4, 2]), [1, 2])
         self.assertEqual(joined(i=0, j=1, land=[2, 1, 1, 1]), [1, 0, 0])
+        self.assertEqual(moved(k=1, land=[2, 1], voters=[1]), [0, 1, 0])
+
+    def test_no_function_comes_back_to_itself(self):
+        calls = {}
+        for path in sorted(PACKAGE.glob("*.py")):
+            for node in ast.walk(ast.parse(path.read_text())):
+                if isinstance(node, ast.FunctionDef):
+                    calls[node.name] = {inner.id for inner in ast.walk(node) if isinstance(inner, ast.Name)}
+        for name in calls:
+            reached = set()
+            ahead = [name]
+            while ahead:
+                for called in calls[ahead.pop()]:
+                    if called in calls and called not in reached:
+                        reached.add(called)
+                        ahead.append(called)
+            self.assertNotIn(name, reached)
 
     def test_size_and_signs(self):
         for path in sorted(PACKAGE.glob("*.py")):
